@@ -1,0 +1,1 @@
+"""Saw teeth: sums over the heights of a saw, reckoned in whole numbers."""
