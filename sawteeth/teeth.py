@@ -33,11 +33,48 @@ def scaled_sum(h, k):
     return total
 
 
+def swaps_to_order(row, n):
+    """How many swaps of two bring a row that holds each number from 0 to n - 1 once into its order."""
+    places = list(row)
+    swaps = 0
+    for i in range(n):
+        while places[i] != i:
+            number = places[i]
+            places[i] = places[number]
+            places[number] = number
+            swaps = swaps + 1
+    return swaps
+
+
+def all_within(numbers, least, greatest):
+    """Whether each of the numbers is from least to greatest."""
+    return all([least <= number <= greatest for number in numbers])
+
+
+def pair_refusal(h, k):
+    """The refusal of h and k where they mustn't have a common divisor, or 0 if there is none."""
+    if not (all_within([h], -LARGEST, LARGEST) and all_within([k], 1, LARGEST)):
+        return NOT_IN_RANGE
+    if greatest_divisor(h, k) != 1:
+        return COMMON_DIVISOR
+    return 0
+
+
 def six(h, k):
     """0 and then 6 k times the sum of h and k, or a refusal alone."""
-    if not (-LARGEST <= h <= LARGEST and 1 <= k <= LARGEST):
-        return [NOT_IN_RANGE]
-    if greatest_divisor(h, k) != 1:
-        return [COMMON_DIVISOR]
+    refusal = pair_refusal(h, k)
+    if refusal != 0:
+        return [refusal]
     # 4 k k times 3 / (2 k) is 6 k; the division leaves nothing, since h and k have no common divisor.
     return [0, 3 * scaled_sum(h, k) // (2 * k)]
+
+
+def sign(h, n):
+    """1 if an even number of pairs among h's multiples by n stand with the greater one first, else 0; or a refusal."""
+    refusal = pair_refusal(h, n)
+    if refusal != 0:
+        return [refusal]
+    row = [h * i % n for i in range(n)]
+    # Each swap changes whether the number of such pairs is even, and a row in order has none:
+    # the swaps are far fewer than the pairs. No remainder comes twice, since h and n have no common divisor.
+    return [1 if swaps_to_order(row, n) % 2 == 0 else 0]

@@ -1,8 +1,5 @@
 """Promise 1: six (h, k), and what the document says ahead of it."""
 
-import contextlib
-import inspect
-import io
 import math
 import unittest
 from fractions import Fraction
@@ -151,47 +148,6 @@ class WrongInputs(unittest.TestCase):
             with self.subTest(h=h, k=k):
                 self.assertNotEqual(math.gcd(h, k), 1)
                 self.assertEqual(six(h, k), [-2])
-
-
-class Answers(unittest.TestCase):
-    CALLS = ((2, 7), (1, 1), (0, 1), (-811, 2000), (2, 4), (0, 9), (1, 0), (1000001, 5), (4, -2))
-
-    def test_the_same_call_twice(self):
-        for h, k in self.CALLS:
-            with self.subTest(h=h, k=k):
-                first = six(h, k)
-                kept = list(first)
-                second = six(h, k)
-                self.assertEqual(second, kept)
-                self.assertIsNot(second, first)
-                first.append(99)
-                first[0] = 98
-                self.assertEqual(second, kept)
-                self.assertEqual(six(h, k), kept)
-
-    def test_lists_of_whole_numbers(self):
-        for h, k in self.CALLS:
-            with self.subTest(h=h, k=k):
-                answer = six(h, k)
-                self.assertIs(type(answer), list)
-                self.assertEqual([type(number) for number in answer], [int] * len(answer))
-
-    def test_length_of_the_answer(self):
-        for h, k in self.CALLS:
-            with self.subTest(h=h, k=k):
-                answer = six(h, k)
-                self.assertEqual(len(answer), 2 if answer[0] == 0 else 1)
-
-    def test_nothing_is_printed(self):
-        out, err = io.StringIO(), io.StringIO()
-        with contextlib.redirect_stdout(out), contextlib.redirect_stderr(err):
-            for h, k in self.CALLS:
-                six(h, k)
-        self.assertEqual((out.getvalue(), err.getvalue()), ("", ""))
-
-    def test_names_of_what_is_handed_in(self):
-        self.assertEqual(list(inspect.signature(six).parameters), ["h", "k"])
-        self.assertEqual(six(k=7, h=2), six(2, 7))
 
 
 if __name__ == "__main__":
