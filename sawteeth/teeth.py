@@ -1,6 +1,7 @@
 """The calls over the teeth of a saw."""
 
 LARGEST = 1000000
+LARGEST_IN_CORNER = 1000
 NOT_IN_RANGE = -2
 COMMON_DIVISOR = -3
 
@@ -78,3 +79,25 @@ def sign(h, n):
     # Each swap changes whether the number of such pairs is even, and a row in order has none:
     # the swaps are far fewer than the pairs. No remainder comes twice, since h and n have no common divisor.
     return [1 if swaps_to_order(row, n) % 2 == 0 else 0]
+
+
+def corner_heights(x, y, a, b, c):
+    """How many whole z there are, from 0 on, for which x / a, y / b and z / c together are below 1."""
+    # Times a b, z / c is to stay below what x / a and y / b leave of 1.
+    room = a * b - x * b - y * a
+    if room <= 0:
+        return 0
+    # The division is rounded up: a z that makes just 1 is not counted, and the z = 0 is.
+    return (c * room + a * b - 1) // (a * b)
+
+
+def corner(a, b, c):
+    """How many points x / a, y / b, z / c stand in the corner above 0 and below 1, or a refusal alone."""
+    if not all_within([a, b, c], 1, LARGEST_IN_CORNER):
+        return [NOT_IN_RANGE]
+    points = 0
+    for x in range(a):
+        for y in range(b):
+            points = points + corner_heights(x, y, a, b, c)
+    # The point with x, y and z all 0 is not above 0.
+    return [points - 1]

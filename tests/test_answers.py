@@ -5,19 +5,21 @@ import inspect
 import io
 import unittest
 
-from sawteeth.teeth import sign, six
+from sawteeth.teeth import corner, sign, six
 
 PARAMETERS = (
     (six, ["h", "k"]),
     (sign, ["h", "n"]),
+    (corner, ["a", "b", "c"]),
 )
 
 # How many numbers an answer holds that isn't a refusal.
-LENGTHS = {six: 2, sign: 1}
+LENGTHS = {six: 2, sign: 1, corner: 1}
 
 CALLS = (
     (six, ((2, 7), (1, 1), (0, 1), (-811, 2000), (2, 4), (0, 9), (1, 0), (1000001, 5), (4, -2))),
     (sign, ((2, 7), (3, 7), (1, 1), (0, 1), (-81, 250), (2, 4), (0, 9), (1, 0), (1000001, 5), (4, -2))),
+    (corner, ((1, 1, 1), (2, 3, 6), (5, 7, 9), (25, 25, 25), (0, 1, 1), (1, -1, 1), (1, 1, 1001))),
 )
 
 
