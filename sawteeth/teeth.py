@@ -3,7 +3,7 @@
 LARGEST = 1000000
 LARGEST_IN_CORNER = 1000
 NOT_IN_RANGE = -2
-COMMON_DIVISOR = -3
+NOT_FITTING = -3
 
 
 def greatest_divisor(x, y):
@@ -57,7 +57,7 @@ def pair_refusal(h, k):
     if not (all_within([h], -LARGEST, LARGEST) and all_within([k], 1, LARGEST)):
         return NOT_IN_RANGE
     if greatest_divisor(h, k) != 1:
-        return COMMON_DIVISOR
+        return NOT_FITTING
     return 0
 
 
@@ -101,3 +101,19 @@ def corner(a, b, c):
             points = points + corner_heights(x, y, a, b, c)
     # The point with x, y and z all 0 is not above 0.
     return [points - 1]
+
+
+def round_of(a, b, c, d):
+    """0 and then how far the turn of a, b, c and d goes round, or a refusal alone."""
+    if not all_within([a, b, c, d], -LARGEST, LARGEST):
+        return [NOT_IN_RANGE]
+    if a * d - b * c != 1:
+        return [NOT_FITTING]
+    if c == 0:
+        return [0, b * d]
+    # Taken c c times, both parts are whole: (a + d) / c is then (a + d) c, and 12 sums are 3 times the scaled one.
+    taken_off = 3 * scaled_sum(d, abs(c))
+    if c < 0:
+        taken_off = -taken_off
+    # The division leaves nothing, since a d less b c is 1.
+    return [0, ((a + d) * c - taken_off) // (c * c)]

@@ -5,21 +5,26 @@ import inspect
 import io
 import unittest
 
-from sawteeth.teeth import corner, sign, six
+from sawteeth.teeth import corner, round_of, sign, six
 
 PARAMETERS = (
     (six, ["h", "k"]),
     (sign, ["h", "n"]),
     (corner, ["a", "b", "c"]),
+    (round_of, ["a", "b", "c", "d"]),
 )
 
 # How many numbers an answer holds that isn't a refusal.
-LENGTHS = {six: 2, sign: 1, corner: 1}
+LENGTHS = {six: 2, sign: 1, corner: 1, round_of: 2}
 
 CALLS = (
     (six, ((2, 7), (1, 1), (0, 1), (-811, 2000), (2, 4), (0, 9), (1, 0), (1000001, 5), (4, -2))),
     (sign, ((2, 7), (3, 7), (1, 1), (0, 1), (-81, 250), (2, 4), (0, 9), (1, 0), (1000001, 5), (4, -2))),
     (corner, ((1, 1, 1), (2, 3, 6), (5, 7, 9), (25, 25, 25), (0, 1, 1), (1, -1, 1), (1, 1, 1001))),
+    (round_of, (
+        (1, 5, 0, 1), (-1, 5, 0, -1), (0, -1, 1, 0), (2, 3, 5, 8), (-2, -3, -5, -8), (1, 0, -2000, 1),
+        (1, 1, 1, 1), (2, 0, 0, 1), (1000001, 0, 0, 1), (1, 0, -1000001, 1),
+    )),
 )
 
 
