@@ -117,3 +117,13 @@ def round_of(a, b, c, d):
         taken_off = -taken_off
     # The division leaves nothing, since a d less b c is 1.
     return [0, ((a + d) * c - taken_off) // (c * c)]
+
+
+def floors(a, b, c, n):
+    """0 and then (a i + b) / c, rounded down, over i from 0 to n - 1 all together, or a refusal alone."""
+    if not (all_within([a, b], -LARGEST, LARGEST) and all_within([c], 1, LARGEST) and all_within([n], 0, LARGEST)):
+        return [NOT_IN_RANGE]
+    total = 0
+    for i in range(n):
+        total = total + (a * i + b) // c
+    return [0, total]

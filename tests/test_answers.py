@@ -5,17 +5,18 @@ import inspect
 import io
 import unittest
 
-from sawteeth.teeth import corner, round_of, sign, six
+from sawteeth.teeth import corner, floors, round_of, sign, six
 
 PARAMETERS = (
     (six, ["h", "k"]),
     (sign, ["h", "n"]),
     (corner, ["a", "b", "c"]),
     (round_of, ["a", "b", "c", "d"]),
+    (floors, ["a", "b", "c", "n"]),
 )
 
 # How many numbers an answer holds that isn't a refusal.
-LENGTHS = {six: 2, sign: 1, corner: 1, round_of: 2}
+LENGTHS = {six: 2, sign: 1, corner: 1, round_of: 2, floors: 2}
 
 CALLS = (
     (six, ((2, 7), (1, 1), (0, 1), (-811, 2000), (2, 4), (0, 9), (1, 0), (1000001, 5), (4, -2))),
@@ -24,6 +25,10 @@ CALLS = (
     (round_of, (
         (1, 5, 0, 1), (-1, 5, 0, -1), (0, -1, 1, 0), (2, 3, 5, 8), (-2, -3, -5, -8), (1, 0, -2000, 1),
         (1, 1, 1, 1), (2, 0, 0, 1), (1000001, 0, 0, 1), (1, 0, -1000001, 1),
+    )),
+    (floors, (
+        (1, 0, 2, 5), (-7, 3, 5, 10), (2, 4, 6, 9), (5, 5, 5, 0), (0, 0, 1, 1), (-1000000, -1000000, 1, 10000),
+        (1, 1, 0, 1), (1, 1, 1, -1), (1000001, 0, 1, 1), (0, -1000001, 1, 1), (0, 0, 1, 1000001),
     )),
 )
 
